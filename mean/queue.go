@@ -10,7 +10,7 @@ import (
 
 // queue of points, in such an order that each comes behind all that may come to it.
 //
-// Operators have a rank for each coordinate, which rises along each way that leads around no more: so one operator's points all come ahead of another one's. Those between which ways lead around have the same rank; they go on together from one number of the next coordinate to the next. While it stays as it is, no way around its loop counts, and they are told apart by the next rank.
+// A point's place is told by its coordinates, and behind each of them a rank of its operator. The rank rises along each way from which none leads back: one operator's points all come ahead of another one's. Operators between which ways lead both ways have the same rank: they are in one loop of more coordinates, and go through the numbers of the next one together. Behind that one a way around this loop counts no more, since along it that coordinate would rise. (Of two points with the same place neither may come of the other one.)
 type queue struct {
 	turns turns
 	ranks [api.MaxDepth][]int
@@ -62,7 +62,7 @@ func (q *queue) take() api.Point {
 	return heap.Pop(&q.turns).(turn).point
 }
 
-// ways: of each operator to which ones ways lead, a bit for each, around no loop of so many coordinates or fewer.
+// ways: of each operator to which ones ways lead, a bit for each, that go around no loop of so many coordinates or fewer.
 func ways(g api.Graph, coordinates int) []uint64 {
 	to := make([]uint64, len(g.Nodes))
 	for _, e := range g.Edges {
@@ -83,7 +83,7 @@ func ways(g api.Graph, coordinates int) []uint64 {
 // leads: does a way lead from one operator to another one?
 func leads(to []uint64, n, m int) bool { return to[n]>>m&1 == 1 }
 
-// ranks: of each operator from how many a way leads to it that leads around no more. These lead to whatever it leads to; so does it, if it isn't led back to: the rank rises.
+// ranks: of each operator how many lead to it, and are not led back to. They lead to whatever it leads to, and so does it itself: where it is not led back to, the rank is greater.
 func ranks(to []uint64) []int {
 	rank := make([]int, len(to))
 	for n := range to {
