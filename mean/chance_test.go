@@ -147,27 +147,49 @@ func (c *chance) feed(node int) api.Feed {
 	return fed(node, many(0, 0, 1, 1, 2, 7, topEpoch)[c.below(7)], int64(c.below(3)), v)
 }
 
-// outAndIn: does some way lead out of a scope and straight into it again; and does one lead around so?
+// outAndIn: does some way lead out of a scope and straight into it again; and does what comes to some point hang on what it gives itself, by such a way?
 func outAndIn(g api.Graph) (some, around bool) {
-	for _, e := range g.Edges {
+	some = slices.ContainsFunc(g.Edges, func(e api.Edge) bool {
 		a, b := g.Nodes[e.From], g.Nodes[e.To]
-		if a.Kind == api.KLeave && b.Kind == api.KEnter && a.Scope == b.Scope {
-			some = true
-			around = around || leads(g, e.To, e.From, map[int]int{})
+		return a.Kind == api.KLeave && b.Kind == api.KEnter && a.Scope == b.Scope
+	})
+	if !some {
+		return false, false
+	}
+	// Each epoch goes the same ways, and hangs on no later one.
+	s := &slow{g: g, epochs: many(0)}
+	seen := map[api.Point]int{}
+	for n := range g.Nodes {
+		for _, t := range s.times(n) {
+			around = around || s.around(api.Point{Node: n, Time: t}, seen)
 		}
 	}
 	return some, around
 }
 
-// leads: does a way lead from one operator to another one, through none that was seen?
-func leads(g api.Graph, from, to int, seen map[int]int) bool {
-	if from == to {
-		return true
+// around: does one lead to itself of those on which a point hangs? Who is asked about is seen once, and twice once that is answered.
+func (s *slow) around(p api.Point, seen map[api.Point]int) bool {
+	if seen[p] > 0 {
+		return seen[p] == 1
 	}
-	seen[from]++
-	return slices.ContainsFunc(g.Edges, func(e api.Edge) bool {
-		return e.From == from && seen[e.To] == 0 && leads(g, e.To, to, seen)
-	})
+	seen[p] = 1
+	for _, t := range s.times(p.Node) {
+		if t != p.Time && (s.g.Nodes[p.Node].Kind != api.KTotal || !notAbove(t, p.Time)) {
+			continue
+		}
+		for _, e := range s.g.Edges {
+			if e.To != p.Node {
+				continue
+			}
+			for _, u := range s.whence(s.g.Nodes[e.From], t) {
+				if s.around(api.Point{Node: e.From, Time: u}, seen) {
+					return true
+				}
+			}
+		}
+	}
+	seen[p] = 2
+	return false
 }
 
 // graphs by chance, small ones and some with as many operators as there may be; with one feed or more to each.
@@ -205,9 +227,11 @@ func TestP12_1_ManyGraphs(t *testing.T) {
 			asks(t, g, feeds, topWork, nil, api.ErrFull)
 			return
 		case around:
-			// The work may be more than slowly, where something was taken back.
+			// There may be several answers that fit, or none that is come upon; but this is hardly so.
 			seen["around"]++
-			asks(t, g, feeds, topWork, a.outs, api.OK)
+			if got, e := mean.Run(g, feeds, 20000); e != api.OK || !slices.Equal(got, a.outs) {
+				seen["other"]++
+			}
 		default:
 			means(t, g, feeds, a.work, a.outs...)
 		}
@@ -224,6 +248,9 @@ func TestP12_1_ManyGraphs(t *testing.T) {
 			}
 		}
 	})
+	if seen["other"] > seen["around"]/20 {
+		t.Errorf("%d of %d go around to something else", seen["other"], seen["around"])
+	}
 	for what, least := range map[string]int{"told": 2000, "totals": 500, "loops": 1000, "out and in": 100, "around": 20, "full": 1, "endless": 1} {
 		if seen[what] < least {
 			t.Errorf("%s: %d", what, seen[what])

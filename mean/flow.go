@@ -22,31 +22,26 @@ type slot struct {
 	many  int
 }
 
-// share is what came to a KTotal up to now at all timestamps that are alike but for their epochs: no epoch of it is behind the one that is run, so it counts as a whole, or not at all. Its time has the epoch 0.
-type share struct {
-	time api.Time
-	came []api.Item
-}
-
 // flow is a graph that is run.
 type flow struct {
 	g    api.Graph
 	from [][]api.Edge // of each operator the edges that lead from it
 	left int          // how much work may still be done
 
-	shares [][]share   // of each KTotal what came to it up to now
-	outs   [][]api.Out // of each sink its records up to now
+	sums map[cell]sum // what came to KTotals up to now
+	outs [][]api.Out  // of each sink its records up to now
 
 	waits map[api.Point]news // of the epoch that is run: what came to points, of which nothing was made yet,
 	slots map[api.Point]slot // the points that were made,
 	queue queue              // those that wait, each once, in the order in which they are made,
+	made  [][]api.Time       // of each KTotal the timestamps at which it was made, in order,
 	sinks [][]api.Item       // and what came to each sink
 }
 
 // start a graph.
 func start(g api.Graph, most int) *flow {
 	n := len(g.Nodes)
-	f := &flow{g: g, from: make([][]api.Edge, n), left: most, shares: make([][]share, n), outs: make([][]api.Out, n), queue: newQueue(g)}
+	f := &flow{g: g, from: make([][]api.Edge, n), left: most, sums: map[cell]sum{}, outs: make([][]api.Out, n), queue: newQueue(g)}
 	for _, e := range g.Edges {
 		f.from[e.From] = append(f.from[e.From], e)
 	}
@@ -55,7 +50,9 @@ func start(g api.Graph, most int) *flow {
 
 // epoch is run, of which these are the feeds; false: there is no room.
 func (f *flow) epoch(feeds []api.Feed) bool {
-	f.waits, f.slots, f.sinks = map[api.Point]news{}, map[api.Point]slot{}, make([][]api.Item, len(f.g.Nodes))
+	n := len(f.g.Nodes)
+	f.waits, f.slots = map[api.Point]news{}, map[api.Point]slot{}
+	f.made, f.sinks = make([][]api.Time, n), make([][]api.Item, n)
 	for part := range stretches(feeds, sameInput) {
 		records := make([]api.Rec, 0, len(part))
 		for _, x := range part {
@@ -133,9 +130,9 @@ func (f *flow) whole(p api.Point, s *slot, came bags) ([]api.Item, bool) {
 	}
 	ports := s.came
 	if f.g.Nodes[p.Node].Kind == api.KTotal {
-		f.share(p, came[0])
+		f.add(p, came[0])
 		f.again(p)
-		ports[1] = f.total(p)
+		ports[1] = f.total(p, ports[0])
 	}
 	was := s.gives
 	gives, ok := ops.Apply(f.g.Nodes[p.Node], ports[:])
@@ -173,45 +170,6 @@ func (f *flow) givesAt(p api.Point) (api.Time, bool) {
 		return t, ok && t.C[t.D-1] < f.g.Bound[x.Scope]
 	}
 	return p.Time, true
-}
-
-// share what came to a KTotal with its later points.
-func (f *flow) share(p api.Point, news []api.Item) {
-	t := p.Time
-	t.C[0] = 0
-	shares := f.shares[p.Node]
-	i := slices.IndexFunc(shares, func(x share) bool { return x.time == t })
-	if i < 0 {
-		i = len(shares)
-		shares = append(shares, share{time: t})
-	}
-	shares[i].came = bag.Plus(shares[i].came, news)
-	f.shares[p.Node] = shares
-}
-
-// again wait those points of a KTotal that hang on this one, and were made ahead of it.
-func (f *flow) again(p api.Point) {
-	for _, x := range f.shares[p.Node] {
-		later := api.Point{Node: p.Node, Time: x.time}
-		later.Time.C[0] = p.Time.C[0]
-		if later == p || !ts.Le(p.Time, later.Time) {
-			continue
-		}
-		if _, made := f.slots[later]; made {
-			f.come(later, 0, nil)
-		}
-	}
-}
-
-// total of what came to a KTotal up to a point.
-func (f *flow) total(p api.Point) []api.Item {
-	var l [][]api.Item
-	for _, x := range f.shares[p.Node] {
-		if ts.Le(x.time, p.Time) {
-			l = append(l, x.came)
-		}
-	}
-	return together(l)
 }
 
 // together are the bags of each port, put together.

@@ -1,6 +1,8 @@
 package mean_test
 
 import (
+	"math/big"
+	"slices"
 	"testing"
 
 	"backwash/api"
@@ -28,6 +30,109 @@ func TestP12_1_TotalsOfNothing(t *testing.T) {
 func TestP12_1_TotalsWithoutRoom(t *testing.T) {
 	feeds := many(fed(0, 0, 1, greatest), fed(0, 1, 1, 1), fed(0, 2, 1, 0), fed(0, 3, 1, -5), fed(0, 4, 1, least), fed(0, 5, 1, least), fed(0, 6, 1, greatest))
 	gives(t, totals(), feeds, out(2, 0, 1, greatest), out(2, 1, 1, over), out(2, 2, 1, over), out(2, 3, 1, greatest-4), out(2, 4, 1, -5), out(2, 5, 1, over), out(2, 6, 1, -6))
+}
+
+// Sums of all sizes, on both sides of each end, to which many copies of one value come, or but one.
+func TestP12_1_TotalsOfAllSizes(t *testing.T) {
+	values := many[int64](least, least+1, -1<<62-1, -1<<62, -1<<62+1, -1<<32-1, -1<<32, -1<<31, -1, 0, 1, 1<<31, 1<<32-1, 1<<32, 1<<62-1, 1<<62, 1<<62+1, greatest-1, greatest)
+	c := chance(41)
+	errors := 0
+	for range 200 {
+		var feeds []api.Feed
+		var want []api.Out
+		sum := new(big.Int)
+		for epoch := range 1 + c.below(40) {
+			v, n := values[c.below(len(values))], 1+c.below(4)*c.below(4)
+			if c.below(3) == 0 && sum.IsInt64() && sum.Int64() != least {
+				v, n = -sum.Int64(), 1
+			}
+			feeds = append(feeds, times(n, fed(0, epoch, 1, v))...)
+			sum.Add(sum, new(big.Int).Mul(big.NewInt(v), big.NewInt(int64(n))))
+			o := out(2, epoch, 1, over)
+			if sum.IsInt64() {
+				o.Rec.V = sum.Int64()
+			} else {
+				errors++
+			}
+			want = append(want, o)
+		}
+		asks(t, totals(), feeds, topWork, want, api.OK)
+	}
+	if errors < 500 {
+		t.Errorf("%d errors", errors)
+	}
+	// As many as may be, as far as may be from 0, and back.
+	for _, v := range many[int64](least, greatest) {
+		var feeds []api.Feed
+		var want []api.Out
+		for epoch := range 8 {
+			feeds = append(feeds, times(room, fed(0, epoch, 1, v))...)
+			want = append(want, out(2, epoch, 1, over))
+		}
+		asks(t, totals(), feeds, topWork, want, api.OK)
+		for epoch := range 7 {
+			feeds = append(feeds, times(room, fed(0, 8+epoch, 1, -(v+1)))...)
+			want = append(want, out(2, 8+epoch, 1, over))
+		}
+		asks(t, totals(), feeds, topWork, want, api.OK)
+		// There is one too many of each: what is left of least is -1 of each pair, of greatest -1 too.
+		left := append(times(room, fed(0, 0, 1, v)), times(room, fed(0, 1, 1, -(v+1)))...)
+		asks(t, totals(), left, topWork, many(out(2, 0, 1, over), out(2, 1, 1, -room)), api.OK)
+	}
+}
+
+// At each number of a counter up to the greatest, alone and with all ahead of it.
+func TestP12_1_TotalsOfAllCounters(t *testing.T) {
+	x := newPlan()
+	begin, _ := x.loop(64, x.input(), func(from int) int { return x.by(api.KShift, 1, from) })
+	s := x.sink(x.leave(x.of(api.KTotal, begin)))
+	var want []api.Out
+	for _, epoch := range many(0, 7) {
+		sum := int64(0)
+		for i := range int64(64) {
+			sum += 1000 + i
+			if epoch == 7 {
+				sum += 5000 + i
+			}
+			want = append(want, out(s, epoch, 1, sum))
+		}
+	}
+	asks(t, x.Graph, many(fed(0, 0, 1, 1000), fed(0, 7, 1, 5000)), topWork, want, api.OK)
+}
+
+// At each round of loops within loops comes 1: the total there is how many rounds are at or before it by each counter, the product of these numbers.
+func TestP12_1_TotalsOfAllRounds(t *testing.T) {
+	for _, bounds := range [][]int{{64}, {64, 64}, {1, 64}, {5, 7, 11}, {16, 16, 16}, {64, 3, 64}} {
+		x := newPlan()
+		from := x.input()
+		products := many[int64](1)
+		for _, bound := range bounds {
+			x.into(bound)
+			begin := x.of(api.KConcat, x.of(api.KEnter, from), later)
+			x.lead(x.of(api.KBack, begin), begin, 1)
+			from = begin
+			var more []int64
+			for _, p := range products {
+				for i := range bound {
+					more = append(more, p*int64(i+1))
+				}
+			}
+			products = more
+		}
+		total := x.of(api.KTotal, from)
+		for range bounds {
+			total = x.leave(total)
+		}
+		s := x.sink(total)
+		slices.Sort(products)
+		want := values(s, 3, 1, products...)
+		asks(t, x.Graph, many(fed(0, 3, 1, 1)), topWork, want, api.OK)
+		// In a later epoch all of that counts once more.
+		for i := range products {
+			products[i] *= 2
+		}
+		asks(t, x.Graph, many(fed(0, 3, 1, 1), fed(0, 4, 1, 1)), topWork, append(want, values(s, 4, 1, products...)...), api.OK)
+	}
 }
 
 // Each KTotal sums by itself what came to it.
